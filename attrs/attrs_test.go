@@ -620,22 +620,27 @@ func answers(a, b []api.Attr) (lists [][]api.Attr, names [][]string) {
 	return lists, names
 }
 
-// stretch is memory, from one address to another.
-type stretch struct{ from, to uintptr }
+// stretch is memory. It keeps what it tells of: memory given back could be given to another
+// answer ahead of the comparison.
+type stretch struct {
+	kept unsafe.Pointer
+	size uintptr
+}
+
+func (s stretch) from() uintptr { return uintptr(s.kept) }
+func (s stretch) to() uintptr   { return s.from() + s.size }
 
 // stretchOf tells the memory of a list, and what it could grow into.
 func stretchOf[T any](l []T) stretch {
-	from := uintptr(unsafe.Pointer(unsafe.SliceData(l)))
 	var one T
-	return stretch{from, from + uintptr(cap(l))*unsafe.Sizeof(one)}
+	return stretch{unsafe.Pointer(unsafe.SliceData(l)), uintptr(cap(l)) * unsafe.Sizeof(one)}
 }
 
 func textStretch(text string) stretch {
 	if text == "" {
 		return stretch{}
 	}
-	from := uintptr(unsafe.Pointer(unsafe.StringData(text)))
-	return stretch{from, from + uintptr(len(text))}
+	return stretch{unsafe.Pointer(unsafe.StringData(text)), uintptr(len(text))}
 }
 
 // stretches tells all memory of the lists and names.
@@ -653,19 +658,19 @@ func stretches(lists [][]api.Attr, names [][]string) []stretch {
 			out = append(out, textStretch(name))
 		}
 	}
-	return slices.DeleteFunc(out, func(s stretch) bool { return s.from == s.to })
+	return slices.DeleteFunc(out, func(s stretch) bool { return s.size == 0 })
 }
 
 // apart tells whether no two stretches have memory in common.
 func apart(l []stretch) bool {
 	slices.SortFunc(l, func(a, b stretch) int {
-		if a.from < b.from {
+		if a.from() < b.from() {
 			return -1
 		}
 		return 1
 	})
 	for i := 1; i < len(l); i++ {
-		if l[i].from < l[i-1].to {
+		if l[i].from() < l[i-1].to() {
 			return false
 		}
 	}
@@ -685,7 +690,7 @@ func memoryLists() [][]api.Attr {
 func meets(a, b []stretch) bool {
 	for _, x := range a {
 		for _, y := range b {
-			if x.from < y.to && y.from < x.to {
+			if x.from() < y.to() && y.from() < x.to() {
 				return true
 			}
 		}

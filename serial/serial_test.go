@@ -815,23 +815,28 @@ func TestWhatIsPutIsValid(t *testing.T) { // P12.2
 	}
 }
 
-// stretch is memory, from one address to another.
-type stretch struct{ from, to uintptr }
+// stretch is memory. It keeps what it tells of: memory given back could be given to another
+// answer ahead of the comparison.
+type stretch struct {
+	kept unsafe.Pointer
+	size uintptr
+}
+
+func (s stretch) from() uintptr { return uintptr(s.kept) }
+func (s stretch) to() uintptr   { return s.from() + s.size }
 
 func stretchOf[T any](l []T) stretch {
-	from := uintptr(unsafe.Pointer(unsafe.SliceData(l)))
 	var one T
-	return stretch{from, from + uintptr(cap(l))*unsafe.Sizeof(one)}
+	return stretch{unsafe.Pointer(unsafe.SliceData(l)), uintptr(cap(l)) * unsafe.Sizeof(one)}
 }
 
 // stretches tells all memory of labelled texts.
 func stretches(l ...api.Str) []stretch {
 	var out []stretch
 	for _, s := range l {
-		from := uintptr(unsafe.Pointer(unsafe.StringData(s.Text)))
-		out = append(out, stretchOf(s.Runs), stretch{from, from + uintptr(len(s.Text))})
+		out = append(out, stretchOf(s.Runs), stretch{unsafe.Pointer(unsafe.StringData(s.Text)), uintptr(len(s.Text))})
 	}
-	return slices.DeleteFunc(out, func(s stretch) bool { return s.from == s.to })
+	return slices.DeleteFunc(out, func(s stretch) bool { return s.size == 0 })
 }
 
 // strs tells all labelled texts of a list.
@@ -849,9 +854,9 @@ func strs(l []api.Tree) []api.Str {
 
 // apart tells whether no two stretches have memory in common.
 func apart(l []stretch) bool {
-	slices.SortFunc(l, func(a, b stretch) int { return cmp.Compare(a.from, b.from) })
+	slices.SortFunc(l, func(a, b stretch) int { return cmp.Compare(a.from(), b.from()) })
 	for i := 1; i < len(l); i++ {
-		if l[i].from < l[i-1].to {
+		if l[i].from() < l[i-1].to() {
 			return false
 		}
 	}
@@ -861,7 +866,7 @@ func apart(l []stretch) bool {
 // meets tells whether a stretch of the one has memory in common with one of the other.
 func meets(a, b []stretch) bool {
 	return slices.ContainsFunc(a, func(x stretch) bool {
-		return slices.ContainsFunc(b, func(y stretch) bool { return x.from < y.to && y.from < x.to })
+		return slices.ContainsFunc(b, func(y stretch) bool { return x.from() < y.to() && y.from() < x.to() })
 	})
 }
 

@@ -662,22 +662,27 @@ func TestMergeTwice(t *testing.T) { // P11.2
 	}
 }
 
-// stretch is memory, from one address to another.
-type stretch struct{ from, to uintptr }
+// stretch is memory. It keeps what it tells of: memory given back could be given to another
+// answer ahead of the comparison.
+type stretch struct {
+	kept unsafe.Pointer
+	size uintptr
+}
+
+func (s stretch) from() uintptr { return uintptr(s.kept) }
+func (s stretch) to() uintptr   { return s.from() + s.size }
 
 // stretchOf tells the memory of a list, and what it could grow into.
 func stretchOf[T any](l []T) stretch {
-	from := uintptr(unsafe.Pointer(unsafe.SliceData(l)))
 	var one T
-	return stretch{from, from + uintptr(cap(l))*unsafe.Sizeof(one)}
+	return stretch{unsafe.Pointer(unsafe.SliceData(l)), uintptr(cap(l)) * unsafe.Sizeof(one)}
 }
 
 func textStretch(text string) stretch {
 	if text == "" {
 		return stretch{}
 	}
-	from := uintptr(unsafe.Pointer(unsafe.StringData(text)))
-	return stretch{from, from + uintptr(len(text))}
+	return stretch{unsafe.Pointer(unsafe.StringData(text)), uintptr(len(text))}
 }
 
 // lists tells the memory of a list, and of all lists of trees and attributes in it.
@@ -699,14 +704,14 @@ func stretches(l []api.Tree, texts []api.Str, tags []string) []stretch {
 	for _, tag := range tags {
 		out = append(out, textStretch(tag))
 	}
-	return slices.DeleteFunc(out, func(s stretch) bool { return s.from == s.to })
+	return slices.DeleteFunc(out, func(s stretch) bool { return s.size == 0 })
 }
 
 // apart tells whether no two stretches have memory in common.
 func apart(l []stretch) bool {
-	slices.SortFunc(l, func(a, b stretch) int { return cmp.Compare(a.from, b.from) })
+	slices.SortFunc(l, func(a, b stretch) int { return cmp.Compare(a.from(), b.from()) })
 	for i := 1; i < len(l); i++ {
-		if l[i].from < l[i-1].to {
+		if l[i].from() < l[i-1].to() {
 			return false
 		}
 	}
@@ -717,7 +722,7 @@ func apart(l []stretch) bool {
 func meets(a, b []stretch) bool {
 	for _, x := range a {
 		for _, y := range b {
-			if x.from < y.to && y.from < x.to {
+			if x.from() < y.to() && y.from() < x.to() {
 				return true
 			}
 		}
